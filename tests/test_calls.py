@@ -1,0 +1,87 @@
+"""What holds of every call: its form, and that nothing is kept or printed."""
+
+import contextlib
+import inspect
+import io
+import unittest
+
+from waterways import desk
+
+PARAMETERS = {
+    "side": ["px", "py", "qx", "qy", "cx", "cy"],
+    "over": ["px", "py", "qx", "qy", "cx", "cy", "dx", "dy"],
+}
+
+CALLS = [
+    ("side", (0, 0, 10, 0, 5, 1), [1]),
+    ("side", (0, 0, 10, 0, 5, 0), [0]),
+    ("side", (0, 0, 10, 0, 5, -1), [2]),
+    ("side", (0, 0, 0, 0, 5, -1), [-8]),
+    ("side", (0, 0, 10, 0, 5, 1048577), [-8]),
+    ("over", (0, 0, 10, 0, 5, -2, 5, 4), [1, 1, 3]),
+    ("over", (0, 0, 10, 0, 5, 0, 5, 4), [1, 0, 1]),
+    ("over", (0, 0, 10, 0, 5, 4, 5, -2), [0]),
+    ("over", (0, 0, 0, 0, 5, -2, 5, 4), [-8]),
+    ("over", (0, 0, 10, 0, 5, -2, 5, 2147483647), [-8]),
+]
+
+
+def call(name, numbers):
+    return getattr(desk, name)(*numbers)
+
+
+class Interface(unittest.TestCase):
+    def test_names_and_arguments(self):
+        for name, parameters in PARAMETERS.items():
+            signature = inspect.signature(getattr(desk, name))
+            self.assertEqual(list(signature.parameters), parameters)
+            for parameter in signature.parameters.values():
+                self.assertIs(parameter.default, inspect.Parameter.empty)
+
+    def test_arguments_by_name(self):
+        for name, numbers, answer in CALLS:
+            named = dict(zip(PARAMETERS[name], numbers))
+            self.assertEqual(getattr(desk, name)(**named), answer)
+
+
+class Answers(unittest.TestCase):
+    def test_a_list_of_whole_numbers(self):
+        for name, numbers, answer in CALLS:
+            told = call(name, numbers)
+            self.assertEqual(told, answer)
+            self.assertIs(type(told), list)
+            for number in told:
+                self.assertIs(type(number), int)
+
+    def test_called_twice_and_in_another_order(self):
+        for calls in (CALLS, CALLS, CALLS[::-1], CALLS[1::2] + CALLS[::2]):
+            for name, numbers, answer in calls:
+                self.assertEqual(call(name, numbers), answer)
+                self.assertEqual(call(name, numbers), answer)
+
+    def test_an_answer_that_is_changed_changes_no_other(self):
+        for name, numbers, answer in CALLS:
+            told = call(name, numbers)
+            told.append(99)
+            told[0] = 77
+            self.assertEqual(call(name, numbers), answer)
+
+
+class Quiet(unittest.TestCase):
+    def test_nothing_is_printed(self):
+        out, err = io.StringIO(), io.StringIO()
+        with contextlib.redirect_stdout(out), contextlib.redirect_stderr(err):
+            for name, numbers, answer in CALLS:
+                call(name, numbers)
+        self.assertEqual((out.getvalue(), err.getvalue()), ("", ""))
+
+    def test_nothing_is_kept(self):
+        before = {name: repr(value) for name, value in vars(desk).items() if name != "__builtins__"}
+        for name, numbers, answer in CALLS:
+            call(name, numbers)
+        after = {name: repr(value) for name, value in vars(desk).items() if name != "__builtins__"}
+        self.assertEqual(after, before)
+
+
+if __name__ == "__main__":
+    unittest.main()

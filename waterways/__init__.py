@@ -1,0 +1,1 @@
+"""Water: what can be told exactly of places and lines."""

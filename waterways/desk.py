@@ -1,0 +1,84 @@
+"""The calls: what is told of places and lines, in whole numbers and fractions, nothing rounded.
+
+Within this file a place and a vector are a tuple (x, y).
+"""
+
+BOUND = 1048576
+
+
+def refusal():
+    return [-8]
+
+
+def is_beyond(places):
+    """Whether a number of one of these places is out of bounds."""
+    return any([max(abs(place[0]), abs(place[1])) > BOUND for place in places])
+
+
+def less(a, b):
+    return (a[0] - b[0], a[1] - b[1])
+
+
+def cross(a, b):
+    return a[0] * b[1] - a[1] * b[0]
+
+
+def leftness(p, q, c):
+    """How far c is on the left of the line from p to q; below 0 it is on the right."""
+    return cross(less(q, p), less(c, p))
+
+
+def common_divisor(a, b):
+    while b != 0:
+        rest = a % b
+        a = b
+        b = rest
+    return a
+
+
+def lowest_terms(numerator, denominator):
+    """The fraction as a list of two numbers; the numerator is not below 0, the denominator is above 0."""
+    divisor = common_divisor(numerator, denominator)
+    return [numerator // divisor, denominator // divisor]
+
+
+def side(px, py, qx, qy, cx, cy):
+    """On which side of the line from p to q is c: [1] left, [0] on it, [2] right; [-8] is a refusal."""
+    p = (px, py)
+    q = (qx, qy)
+    c = (cx, cy)
+    if is_beyond([p, q, c]) or p == q:
+        return refusal()
+    left = leftness(p, q, c)
+    if left > 0:
+        return [1]
+    if left < 0:
+        return [2]
+    return [0]
+
+
+def meets_between(p, q, c, d):
+    """Whether the straight from c, not on the left, to d, on the left, meets the line at p, at q or between.
+
+    Such a way leaves p on its left and q on its right, so two crosses tell it
+    and the place where they meet, which need not be whole, is never reckoned.
+    """
+    return leftness(c, d, p) >= 0 and leftness(c, d, q) <= 0
+
+
+def over(px, py, qx, qy, cx, cy, dx, dy):
+    """Whether the way from c to d goes over the line from p to q: [1, numerator, denominator of when] or [0].
+
+    [-8] is a refusal.
+    """
+    p = (px, py)
+    q = (qx, qy)
+    c = (cx, cy)
+    d = (dx, dy)
+    if is_beyond([p, q, c, d]) or p == q:
+        return refusal()
+    right_at_c = -leftness(p, q, c)
+    left_at_d = leftness(p, q, d)
+    if right_at_c < 0 or left_at_d <= 0 or not meets_between(p, q, c, d):
+        return [0]
+    return [1] + lowest_terms(right_at_c, right_at_c + left_at_d)
