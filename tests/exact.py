@@ -53,3 +53,52 @@ def over_by_meeting(p, q, c, d):
     if not 0 <= stretch(meeting[axis], p[axis], q[axis]) <= 1:
         return [0]
     return [1, when.numerator, when.denominator]
+
+
+def distance_square(place, other):
+    return sum((place[k] - other[k]) ** 2 for k in range(2))
+
+
+def place_at(p, q, part):
+    """The place at this fraction of the way from p to q."""
+    return tuple(p[k] + part * (q[k] - p[k]) for k in range(2))
+
+
+def nearest_part(p, q, c):
+    """At which fraction of the way from p to q is the place nearest to c.
+
+    The square of the distance is a parabola over the way; three of its values tell where it is lowest.
+    """
+    if p == q:
+        return Fraction(0)
+    at_p, at_half, at_q = [distance_square(place_at(p, q, Fraction(k, 2)), c) for k in range(3)]
+    bend = 2 * at_p + 2 * at_q - 4 * at_half
+    slope = at_q - at_p - bend
+    return min(max(-slope / (2 * bend), Fraction(0)), Fraction(1))
+
+
+def distance_by_parabola(p, q, c):
+    return Fraction(distance_square(place_at(p, q, nearest_part(p, q, c)), c))
+
+
+def near_by_parabola(p, q, c):
+    distance = distance_by_parabola(p, q, c)
+    return [0, distance.numerator, distance.denominator]
+
+
+def nearer_by_parabola(p, q, c, d):
+    of_c = distance_by_parabola(p, q, c)
+    of_d = distance_by_parabola(p, q, d)
+    return [(of_c < of_d) + 2 * (of_d < of_c)]
+
+
+def drawn(count, how_many, reach):
+    """This many tuples of places drawn from the bounds -reach and reach, the same ones whenever it is called."""
+    state = 20261116 + reach
+
+    def number():
+        nonlocal state
+        state = (state * 6364136223846793005 + 1442695040888963407) % 2 ** 64
+        return (state >> 24) % (2 * reach + 1) - reach
+
+    return [tuple((number(), number()) for place in range(how_many)) for row in range(count)]

@@ -10,6 +10,8 @@ from waterways import desk
 PARAMETERS = {
     "side": ["px", "py", "qx", "qy", "cx", "cy"],
     "over": ["px", "py", "qx", "qy", "cx", "cy", "dx", "dy"],
+    "near": ["px", "py", "qx", "qy", "cx", "cy"],
+    "nearer": ["px", "py", "qx", "qy", "cx", "cy", "dx", "dy"],
 }
 
 CALLS = [
@@ -23,6 +25,16 @@ CALLS = [
     ("over", (0, 0, 10, 0, 5, 4, 5, -2), [0]),
     ("over", (0, 0, 0, 0, 5, -2, 5, 4), [-8]),
     ("over", (0, 0, 10, 0, 5, -2, 5, 2147483647), [-8]),
+    ("near", (0, 0, 2, 1, 1, 1), [0, 1, 5]),
+    ("near", (0, 0, 2, 1, -3, 4), [0, 25, 1]),
+    ("near", (0, 0, 2, 1, 2, 1), [0, 0, 1]),
+    ("near", (3, 3, 3, 3, 3, 1), [0, 4, 1]),
+    ("near", (0, 0, 10, -1048577, 5, 1), [-8]),
+    ("nearer", (0, 0, 2, 1, 1, 1, 0, 1), [1]),
+    ("nearer", (0, 0, 2, 1, 1, 1, 2, 1), [2]),
+    ("nearer", (0, 0, 2, 1, 1, 1, 1, 0), [0]),
+    ("nearer", (3, 3, 3, 3, 3, 1, 2, 3), [2]),
+    ("nearer", (0, 0, 10, 0, 5, -2, -2147483648, 0), [-8]),
 ]
 
 
@@ -54,7 +66,8 @@ class Answers(unittest.TestCase):
                 self.assertIs(type(number), int)
 
     def test_called_twice_and_in_another_order(self):
-        for calls in (CALLS, CALLS, CALLS[::-1], CALLS[1::2] + CALLS[::2]):
+        by_turns = [CALLS[k] for start in range(5) for k in range(start, len(CALLS), 5)]
+        for calls in (CALLS, CALLS, CALLS[::-1], CALLS[1::2] + CALLS[::2], by_turns, by_turns[::-1]):
             for name, numbers, answer in calls:
                 self.assertEqual(call(name, numbers), answer)
                 self.assertEqual(call(name, numbers), answer)

@@ -1,13 +1,14 @@
-"""The document's points 1, 2 and 4, as far as they speak of side and over."""
+"""The document's points 1 to 4, as far as they speak of side, over, near and nearer."""
 
 import unittest
 from fractions import Fraction
 from math import gcd
 
-from tests.exact import BOUND, REFUSAL, flat, grid
-from waterways.desk import over, side
+from tests.exact import BOUND, REFUSAL, distance_square, drawn, flat, grid, nearest_part, place_at
+from waterways.desk import near, nearer, over, side
 
-TURNED_ROUND = {1: 2, 0: 0, 2: 1}
+ONE_AND_TWO_CHANGED = {1: 2, 0: 0, 2: 1}
+REACHES = (2, 9, 400, BOUND)
 
 
 def quarter(place):
@@ -50,6 +51,36 @@ def ways():
                     yield p, q, c, d
 
 
+def straights():
+    """A straight and a place each, p, q, c, with p and q one place among them."""
+    for p, q in (((0, 0), (0, 0)), ((-1, 0), (3, 0)), ((0, 2), (0, -1)), ((-2, -1), (2, 1)), ((2, -2), (-1, 1))):
+        for c in grid(4):
+            yield p, q, c
+    for reach in REACHES:
+        for p, q, c in drawn(150, 3, reach):
+            yield p, q, c
+            yield p, p, c
+
+
+def pairs_of_places():
+    """A straight and two places each, p, q, c, d, with p and q one place among them, and c and d at its ends."""
+    for reach in REACHES:
+        for p, q, c, d in drawn(250, 4, reach):
+            yield p, q, c, d
+            yield p, p, c, d
+            yield p, q, p, d
+            yield p, q, c, q
+    for p, q in (((0, 0), (2, 1)), ((1, -1), (-2, -1)), ((1, 1), (1, 1))):
+        for c in grid(2):
+            for d in grid(2):
+                yield p, q, c, d
+
+
+def told_distance(p, q, c):
+    first, numerator, denominator = near(*flat(p, q, c))
+    return Fraction(numerator, denominator)
+
+
 def places_on_the_way(c, d):
     """Whole places from c to d, both too, each with the fraction of the way: all, or some of a long way."""
     steps = gcd(d[0] - c[0], d[1] - c[1])
@@ -65,7 +96,7 @@ def places_on_the_way(c, d):
 class PointOne(unittest.TestCase):
     def test_sides_change_with_the_lines_turning(self):
         for p, q, c in triples():
-            self.assertEqual(side(*flat(q, p, c)), [TURNED_ROUND[side(*flat(p, q, c))[0]]], (p, q, c))
+            self.assertEqual(side(*flat(q, p, c)), [ONE_AND_TWO_CHANGED[side(*flat(p, q, c))[0]]], (p, q, c))
 
     def test_each_of_three_places_is_on_the_same_side_of_the_line_through_the_others(self):
         for p, q, c in triples():
@@ -133,6 +164,62 @@ class PointTwo(unittest.TestCase):
                     self.assertEqual(part + (1 - part) * Fraction(second[1], second[2]), when, (p, q, c, d, place))
 
 
+class PointThree(unittest.TestCase):
+    def test_no_whole_place_of_the_straight_is_nearer_than_told(self):
+        for p, q, c in straights():
+            told = told_distance(p, q, c)
+            for part, place in places_on_the_way(p, q):
+                self.assertGreaterEqual(distance_square(place, c), told, (p, q, c, place))
+
+    def test_no_place_at_a_fraction_of_the_straight_is_nearer_than_told(self):
+        parts = [Fraction(k, 16) for k in range(17)] + [Fraction(1, 10 ** 9), 1 - Fraction(1, 10 ** 9)]
+        for p, q, c in straights():
+            told = told_distance(p, q, c)
+            for part in parts:
+                self.assertGreaterEqual(distance_square(place_at(p, q, part), c), told, (p, q, c, part))
+
+    def test_no_place_beside_the_nearest_is_nearer_than_told(self):
+        for p, q, c in straights():
+            told = told_distance(p, q, c)
+            nearest = nearest_part(p, q, c)
+            for step in (Fraction(1, 7), Fraction(1, 10 ** 6), Fraction(1, 10 ** 30)):
+                for part in (max(nearest - step, 0), min(nearest + step, 1)):
+                    self.assertGreaterEqual(distance_square(place_at(p, q, part), c), told, (p, q, c, part))
+
+    def test_one_place_of_the_straight_is_as_near_as_told(self):
+        for p, q, c in straights():
+            nearest = nearest_part(p, q, c)
+            self.assertTrue(0 <= nearest <= 1)
+            self.assertEqual(distance_square(place_at(p, q, nearest), c), told_distance(p, q, c), (p, q, c))
+
+    def test_near_is_nothing_only_on_the_straight(self):
+        for p, q, c in straights():
+            on_it = min(p[0], q[0]) <= c[0] <= max(p[0], q[0]) and min(p[1], q[1]) <= c[1] <= max(p[1], q[1])
+            on_it = on_it and (p == q or side(*flat(p, q, c)) == [0])
+            self.assertEqual(near(*flat(p, q, c)) == [0, 0, 1], on_it, (p, q, c))
+
+    def test_nearer_agrees_with_near(self):
+        answers = []
+        for p, q, c, d in pairs_of_places():
+            of_c = told_distance(p, q, c)
+            of_d = told_distance(p, q, d)
+            answers.append(nearer(*flat(p, q, c, d)))
+            self.assertEqual(answers[-1], [1] if of_c < of_d else [2] if of_d < of_c else [0], (p, q, c, d))
+        for answer in ([0], [1], [2]):
+            self.assertGreater(answers.count(answer), 100)
+
+    def test_c_and_d_changed(self):
+        for p, q, c, d in pairs_of_places():
+            told = nearer(*flat(p, q, c, d))
+            self.assertEqual(nearer(*flat(p, q, d, c)), [ONE_AND_TWO_CHANGED[told[0]]], (p, q, c, d))
+
+    def test_p_and_q_changed(self):
+        for p, q, c in straights():
+            self.assertEqual(near(*flat(q, p, c)), near(*flat(p, q, c)), (p, q, c))
+        for p, q, c, d in pairs_of_places():
+            self.assertEqual(nearer(*flat(q, p, c, d)), nearer(*flat(p, q, c, d)), (p, q, c, d))
+
+
 class PointFour(unittest.TestCase):
     def test_turned_by_a_quarter(self):
         for places in triples():
@@ -141,6 +228,12 @@ class PointFour(unittest.TestCase):
         for places in ways():
             turned = [quarter(place) for place in places]
             self.assertEqual(over(*flat(*turned)), over(*flat(*places)), places)
+        for places in straights():
+            turned = [quarter(place) for place in places]
+            self.assertEqual(near(*flat(*turned)), near(*flat(*places)), places)
+        for places in pairs_of_places():
+            turned = [quarter(place) for place in places]
+            self.assertEqual(nearer(*flat(*turned)), nearer(*flat(*places)), places)
 
     def test_moved_all_alike(self):
         for by in ((1, 0), (0, -1), (17, -300), (5 - BOUND, BOUND - 5)):
@@ -154,16 +247,34 @@ class PointFour(unittest.TestCase):
                     continue
                 away = [moved(place, by) for place in places]
                 self.assertEqual(over(*flat(*away)), over(*flat(*places)), (places, by))
+            for places in straights():
+                if max(abs(number) for number in flat(*places)) > 5:
+                    continue
+                away = [moved(place, by) for place in places]
+                self.assertEqual(near(*flat(*away)), near(*flat(*places)), (places, by))
+            for places in pairs_of_places():
+                if max(abs(number) for number in flat(*places)) > 5:
+                    continue
+                away = [moved(place, by) for place in places]
+                self.assertEqual(nearer(*flat(*away)), nearer(*flat(*places)), (places, by))
 
     def test_in_a_mirror_left_is_right(self):
         for places in triples():
             seen = [mirrored(place) for place in places]
-            self.assertEqual(side(*flat(*seen)), [TURNED_ROUND[side(*flat(*places))[0]]], places)
+            self.assertEqual(side(*flat(*seen)), [ONE_AND_TWO_CHANGED[side(*flat(*places))[0]]], places)
 
     def test_in_a_mirror_a_way_goes_over_the_line_turned(self):
         for p, q, c, d in ways():
             seen = [mirrored(place) for place in (q, p, c, d)]
             self.assertEqual(over(*flat(*seen)), over(*flat(p, q, c, d)), (p, q, c, d))
+
+    def test_in_a_mirror_all_is_as_near(self):
+        for places in straights():
+            seen = [mirrored(place) for place in places]
+            self.assertEqual(near(*flat(*seen)), near(*flat(*places)), places)
+        for places in pairs_of_places():
+            seen = [mirrored(place) for place in places]
+            self.assertEqual(nearer(*flat(*seen)), nearer(*flat(*places)), places)
 
 
 if __name__ == "__main__":

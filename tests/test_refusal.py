@@ -1,7 +1,7 @@
 import unittest
 
-from tests.exact import BOUND, HIGHEST, LOWEST, REFUSAL, over_by_meeting
-from waterways.desk import over, side
+from tests.exact import BOUND, HIGHEST, LOWEST, REFUSAL, near_by_parabola, nearer_by_parabola, over_by_meeting
+from waterways.desk import near, nearer, over, side
 
 OUTSIDE = (BOUND + 1, -BOUND - 1, LOWEST, HIGHEST, LOWEST + 1, HIGHEST - 1)
 LINE = (0, 0, 10, 0)
@@ -16,6 +16,14 @@ WAYS = [
     (20, -1, 20, 1),  # meets the line beyond q
     (5, 3, 5, 3),  # one place
 ]
+
+# Places of every sort for near, and lines that it takes.
+PLACES = [(5, 1), (5, 0), (0, 0), (10, 0), (-3, 4), (13, -4), (0, 7), (10, 7), (-3, 0)]
+LINES = [LINE, (0, 10, 0, 0), (0, 0, 2, 1), (0, 0, 0, 0)]
+
+
+def in_places(numbers):
+    return [tuple(numbers[k:k + 2]) for k in range(0, len(numbers), 2)]
 
 
 def with_number(numbers, index, number):
@@ -58,13 +66,47 @@ class RefusedNumbers(unittest.TestCase):
             for index in range(8):
                 for number in (BOUND, -BOUND):
                     changed = with_number(numbers, index, number)
-                    places = [tuple(changed[k:k + 2]) for k in (0, 2, 4, 6)]
-                    self.assertEqual(over(*changed), over_by_meeting(*places), changed)
+                    self.assertEqual(over(*changed), over_by_meeting(*in_places(changed)), changed)
+
+    def test_near_refuses_each_number_beyond_the_bounds(self):
+        for line in LINES:
+            for place in PLACES:
+                for index in range(6):
+                    for number in OUTSIDE:
+                        changed = with_number(line + place, index, number)
+                        self.assertEqual(near(*changed), REFUSAL, changed)
+
+    def test_nearer_refuses_each_number_beyond_the_bounds(self):
+        for line in LINES:
+            for c in PLACES:
+                for d in PLACES:
+                    for index in range(8):
+                        for number in OUTSIDE:
+                            changed = with_number(line + c + d, index, number)
+                            self.assertEqual(nearer(*changed), REFUSAL, changed)
+
+    def test_near_takes_each_number_at_the_bounds(self):
+        for line in LINES:
+            for place in PLACES:
+                for index in range(6):
+                    for number in (BOUND, -BOUND):
+                        changed = with_number(line + place, index, number)
+                        self.assertEqual(near(*changed), near_by_parabola(*in_places(changed)), changed)
+
+    def test_nearer_takes_each_number_at_the_bounds(self):
+        for line in LINES:
+            for c, d in zip(PLACES, PLACES[1:] + PLACES[:1]):
+                for index in range(8):
+                    for number in (BOUND, -BOUND):
+                        changed = with_number(line + c + d, index, number)
+                        self.assertEqual(nearer(*changed), nearer_by_parabola(*in_places(changed)), changed)
 
     def test_all_numbers_beyond_the_bounds(self):
         for number in OUTSIDE:
             self.assertEqual(side(*[number] * 6), REFUSAL)
             self.assertEqual(over(*[number] * 8), REFUSAL)
+            self.assertEqual(near(*[number] * 6), REFUSAL)
+            self.assertEqual(nearer(*[number] * 8), REFUSAL)
 
 
 class RefusedLines(unittest.TestCase):
@@ -78,6 +120,14 @@ class RefusedLines(unittest.TestCase):
             for way in WAYS:
                 self.assertEqual(over(*place, *place, *way), REFUSAL)
 
+    def test_near_and_nearer_take_a_line_that_is_one_place(self):
+        for place in ((0, 0), (5, 0), (BOUND, BOUND), (-BOUND, BOUND)):
+            self.assertEqual(near(*place, *place, *place), [0, 0, 1])
+            self.assertEqual(near(*place, *place, 0, 0), [0, place[0] ** 2 + place[1] ** 2, 1])
+            self.assertEqual(nearer(*place, *place, *place, 1, 1), [1])
+            self.assertEqual(nearer(*place, *place, 1, 1, *place), [2])
+            self.assertEqual(nearer(*place, *place, 1, 1, 1, 1), [0])
+
     def test_one_number_alike_is_no_refusal(self):
         self.assertEqual(side(3, 1, 3, 2, 0, 0), [1])
         self.assertEqual(side(1, 3, 2, 3, 0, 0), [2])
@@ -87,6 +137,8 @@ class RefusedLines(unittest.TestCase):
     def test_two_reasons_are_one_refusal(self):
         self.assertEqual(side(1, 1, 1, 1, BOUND + 1, 0), REFUSAL)
         self.assertEqual(over(1, 1, 1, 1, 0, BOUND + 1, LOWEST, HIGHEST), REFUSAL)
+        self.assertEqual(near(LOWEST, 1, 1, BOUND + 1, 0, HIGHEST), REFUSAL)
+        self.assertEqual(nearer(1, 1, 1, 1, 0, BOUND + 1, LOWEST, HIGHEST), REFUSAL)
 
     def test_c_at_an_end_of_the_line_is_no_refusal(self):
         self.assertEqual(side(1, 2, 3, 4, 1, 2), [0])

@@ -23,6 +23,10 @@ def cross(a, b):
     return a[0] * b[1] - a[1] * b[0]
 
 
+def dot(a, b):
+    return a[0] * b[0] + a[1] * b[1]
+
+
 def leftness(p, q, c):
     """How far c is on the left of the line from p to q; below 0 it is on the right."""
     return cross(less(q, p), less(c, p))
@@ -82,3 +86,51 @@ def over(px, py, qx, qy, cx, cy, dx, dy):
     if right_at_c < 0 or left_at_d <= 0 or not meets_between(p, q, c, d):
         return [0]
     return [1] + lowest_terms(right_at_c, right_at_c + left_at_d)
+
+
+def square_distance(p, q, c):
+    """The square of the distance from c to the nearest place of the straight between p and q, a fraction.
+
+    Where p and q are one place, along is nothing, and the first answer, that of the distance to p, holds.
+    """
+    along = less(q, p)
+    from_p = less(c, p)
+    from_q = less(c, q)
+    if dot(along, from_p) <= 0:
+        return [dot(from_p, from_p), 1]
+    if dot(along, from_q) >= 0:
+        return [dot(from_q, from_q), 1]
+    across = cross(along, from_p)
+    return lowest_terms(across * across, dot(along, along))
+
+
+def near(px, py, qx, qy, cx, cy):
+    """How near c is to the straight between p and q: [0, numerator, denominator of the distance's square].
+
+    [-8] is a refusal.
+    """
+    p = (px, py)
+    q = (qx, qy)
+    c = (cx, cy)
+    if is_beyond([p, q, c]):
+        return refusal()
+    return [0] + square_distance(p, q, c)
+
+
+def nearer(px, py, qx, qy, cx, cy, dx, dy):
+    """Which is nearer to the straight between p and q: [1] c, [2] d, [0] they are as near; [-8] is a refusal."""
+    p = (px, py)
+    q = (qx, qy)
+    c = (cx, cy)
+    d = (dx, dy)
+    if is_beyond([p, q, c, d]):
+        return refusal()
+    of_c = square_distance(p, q, c)
+    of_d = square_distance(p, q, d)
+    # Both denominators are above 0, so the fractions stand to each other as these products do.
+    lead = of_d[0] * of_c[1] - of_c[0] * of_d[1]
+    if lead > 0:
+        return [1]
+    if lead < 0:
+        return [2]
+    return [0]
