@@ -1,6 +1,7 @@
 """What the tests share: places, and answers reckoned by another way than the program's."""
 
 from fractions import Fraction
+from math import gcd, lcm
 
 BOUND = 1048576
 REFUSAL = [-8]
@@ -92,6 +93,42 @@ def nearer_by_parabola(p, q, c, d):
     return [(of_c < of_d) + 2 * (of_d < of_c)]
 
 
+def touch_by_meeting(abow, astern, bbow, bstern):
+    """The answer of touch, from the very place at which a's straight is on the line through b."""
+    axis = 0 if bbow[0] != bstern[0] else 1
+    at_bow = gap(bbow, bstern, abow)
+    at_stern = gap(bbow, bstern, astern)
+    if at_bow == at_stern == 0:
+        first, last = sorted(stretch(place[axis], bbow[axis], bstern[axis]) for place in (abow, astern))
+        return [int(first <= 1 and last >= 0)]
+    if at_bow == at_stern:
+        return [0]
+    part = at_bow / (at_bow - at_stern)
+    meeting = place_at(abow, astern, part)
+    return [int(0 <= part <= 1 and 0 <= stretch(meeting[axis], bbow[axis], bstern[axis]) <= 1)]
+
+
+def places_listed(bow, stern, finest):
+    """The places of the straight at every fraction of its way with a denominator up to finest.
+
+    All numbers are stretched alike, so that these places are whole.
+    """
+    unit = lcm(*range(1, finest + 1))
+    parts = [k * (unit // n) for n in range(1, finest + 1) for k in range(n + 1) if gcd(k, n) == 1]
+    return {tuple(unit * bow[k] + part * (stern[k] - bow[k]) for k in range(2)) for part in parts}
+
+
+def is_behind(bow, stern, c):
+    """Whether the corner at the stern, between bow and c, is wider than a right one: of three distances' squares."""
+    return distance_square(bow, c) > distance_square(bow, stern) + distance_square(stern, c)
+
+
+def astern_by_distances(abow, astern, bbow, bstern):
+    a_is = is_behind(bbow, bstern, abow) and is_behind(bbow, bstern, astern)
+    b_is = is_behind(abow, astern, bbow) and is_behind(abow, astern, bstern)
+    return [a_is + 2 * b_is]
+
+
 def drawn(count, how_many, reach):
     """This many tuples of places drawn from the bounds -reach and reach, the same ones whenever it is called."""
     state = 20261116 + reach
@@ -102,3 +139,8 @@ def drawn(count, how_many, reach):
         return (state >> 24) % (2 * reach + 1) - reach
 
     return [tuple((number(), number()) for place in range(how_many)) for row in range(count)]
+
+
+def drawn_hulls(count, reach):
+    """Two hulls each, the bow and stern of a, then of b."""
+    return [places for places in drawn(count, 4, reach) if places[0] != places[1] and places[2] != places[3]]

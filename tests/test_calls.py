@@ -12,6 +12,8 @@ PARAMETERS = {
     "over": ["px", "py", "qx", "qy", "cx", "cy", "dx", "dy"],
     "near": ["px", "py", "qx", "qy", "cx", "cy"],
     "nearer": ["px", "py", "qx", "qy", "cx", "cy", "dx", "dy"],
+    "touch": ["abowx", "abowy", "asternx", "asterny", "bbowx", "bbowy", "bsternx", "bsterny"],
+    "astern": ["abowx", "abowy", "asternx", "asterny", "bbowx", "bbowy", "bsternx", "bsterny"],
 }
 
 CALLS = [
@@ -35,6 +37,16 @@ CALLS = [
     ("nearer", (0, 0, 2, 1, 1, 1, 1, 0), [0]),
     ("nearer", (3, 3, 3, 3, 3, 1, 2, 3), [2]),
     ("nearer", (0, 0, 10, 0, 5, -2, -2147483648, 0), [-8]),
+    ("touch", (0, 4, 0, 0, 2, 2, -2, 2), [1]),
+    ("touch", (0, 4, 0, 0, 0, 5, 0, 9), [0]),
+    ("touch", (0, 4, 0, 0, 2, 2, 2, 2), [-8]),
+    ("touch", (0, 4, 0, 1048577, 2, 2, -2, 2), [-8]),
+    ("astern", (0, -1, 0, -5, 0, 4, 0, 0), [1]),
+    ("astern", (0, 9, 0, 5, 0, 4, 0, 0), [2]),
+    ("astern", (1, 6, 1, 2, 0, 4, 0, 0), [0]),
+    ("astern", (0, -5, 0, -1, 0, 4, 0, 0), [3]),
+    ("astern", (0, 4, 0, 4, 0, -1, 0, -5), [-8]),
+    ("astern", (0, 4, 0, 0, 0, -1, -2147483648, -5), [-8]),
 ]
 
 

@@ -1,11 +1,11 @@
-"""The document's points 1 to 4, as far as they speak of side, over, near and nearer."""
+"""The document's points 1 to 4, as far as they speak of side, over, near, nearer, touch and astern."""
 
 import unittest
 from fractions import Fraction
 from math import gcd
 
-from tests.exact import BOUND, REFUSAL, distance_square, drawn, flat, grid, nearest_part, place_at
-from waterways.desk import near, nearer, over, side
+from tests.exact import BOUND, REFUSAL, distance_square, drawn, drawn_hulls, flat, grid, nearest_part, place_at
+from waterways.desk import astern, near, nearer, over, side, touch
 
 ONE_AND_TWO_CHANGED = {1: 2, 0: 0, 2: 1}
 REACHES = (2, 9, 400, BOUND)
@@ -74,6 +74,20 @@ def pairs_of_places():
         for c in grid(2):
             for d in grid(2):
                 yield p, q, c, d
+
+
+def pairs_of_hulls():
+    """Two hulls each, bow and stern of a, then of b, among them hulls with an end in common and on one line."""
+    for reach in REACHES:
+        for places in drawn_hulls(600, reach):
+            yield places
+    for reach in (2, 4):
+        for abow, astern_of_a, bbow, bstern in drawn_hulls(200, reach):
+            yield abow, astern_of_a, abow, moved(abow, (1, reach))
+            yield abow, astern_of_a, astern_of_a, moved(astern_of_a, (-1, 1))
+            along = (astern_of_a[0] - abow[0], astern_of_a[1] - abow[1])
+            yield abow, astern_of_a, moved(astern_of_a, along), moved(abow, along)
+            yield abow, astern_of_a, moved(moved(astern_of_a, along), along), moved(astern_of_a, along)
 
 
 def told_distance(p, q, c):
@@ -275,6 +289,56 @@ class PointFour(unittest.TestCase):
         for places in pairs_of_places():
             seen = [mirrored(place) for place in places]
             self.assertEqual(nearer(*flat(*seen)), nearer(*flat(*places)), places)
+
+
+class PointFourOfHulls(unittest.TestCase):
+    def told_the_same(self, change, hulls):
+        for places in hulls:
+            changed = [change(place) for place in places]
+            self.assertEqual(touch(*flat(*changed)), touch(*flat(*places)), places)
+            self.assertEqual(astern(*flat(*changed)), astern(*flat(*places)), places)
+
+    def test_the_samples_hold_every_answer(self):
+        told = [touch(*flat(*places)) for places in pairs_of_hulls()]
+        for answer in ([0], [1]):
+            self.assertGreater(told.count(answer), 500)
+        self.assertEqual(told.count(REFUSAL), 0)
+        told = [astern(*flat(*places)) for places in pairs_of_hulls()]
+        for answer in ([0], [1], [2], [3]):
+            self.assertGreater(told.count(answer), 50)
+        self.assertEqual(told.count(REFUSAL), 0)
+
+    def test_touching_does_not_hang_on_who_is_first(self):
+        for abow, astern_of_a, bbow, bstern in pairs_of_hulls():
+            told = touch(*flat(abow, astern_of_a, bbow, bstern))
+            self.assertEqual(touch(*flat(bbow, bstern, abow, astern_of_a)), told, (abow, astern_of_a, bbow, bstern))
+
+    def test_touching_does_not_hang_on_which_end_is_the_bow(self):
+        for abow, astern_of_a, bbow, bstern in pairs_of_hulls():
+            told = touch(*flat(abow, astern_of_a, bbow, bstern))
+            self.assertEqual(touch(*flat(astern_of_a, abow, bbow, bstern)), told, (abow, astern_of_a, bbow, bstern))
+            self.assertEqual(touch(*flat(abow, astern_of_a, bstern, bbow)), told, (abow, astern_of_a, bbow, bstern))
+
+    def test_astern_with_a_and_b_changed(self):
+        changed = {1: [2], 2: [1], 0: [0], 3: [3]}
+        for abow, astern_of_a, bbow, bstern in pairs_of_hulls():
+            told = astern(*flat(abow, astern_of_a, bbow, bstern))
+            other = astern(*flat(bbow, bstern, abow, astern_of_a))
+            self.assertEqual(other, changed[told[0]], (abow, astern_of_a, bbow, bstern))
+
+    def test_turned_by_a_quarter(self):
+        self.told_the_same(quarter, pairs_of_hulls())
+
+    def test_moved_all_alike(self):
+        near_hulls = [places for places in pairs_of_hulls() if max(abs(number) for number in flat(*places)) <= 9]
+        self.assertGreater(len(near_hulls), 1000)
+        for by in ((1, 0), (0, -1), (17, -300), (9 - BOUND, BOUND - 9)):
+            self.told_the_same(lambda place: moved(place, by), near_hulls)
+
+    def test_in_a_mirror(self):
+        self.told_the_same(mirrored, pairs_of_hulls())
+        self.told_the_same(lambda place: (place[0], -place[1]), pairs_of_hulls())
+        self.told_the_same(lambda place: (place[1], place[0]), pairs_of_hulls())
 
 
 if __name__ == "__main__":

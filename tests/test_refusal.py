@@ -1,7 +1,10 @@
 import unittest
 
-from tests.exact import BOUND, HIGHEST, LOWEST, REFUSAL, near_by_parabola, nearer_by_parabola, over_by_meeting
-from waterways.desk import near, nearer, over, side
+from tests.exact import (
+    BOUND, HIGHEST, LOWEST, REFUSAL, astern_by_distances, near_by_parabola, nearer_by_parabola, over_by_meeting,
+    touch_by_meeting,
+)
+from waterways.desk import astern, near, nearer, over, side, touch
 
 OUTSIDE = (BOUND + 1, -BOUND - 1, LOWEST, HIGHEST, LOWEST + 1, HIGHEST - 1)
 LINE = (0, 0, 10, 0)
@@ -20,6 +23,17 @@ WAYS = [
 # Places of every sort for near, and lines that it takes.
 PLACES = [(5, 1), (5, 0), (0, 0), (10, 0), (-3, 4), (13, -4), (0, 7), (10, 7), (-3, 0)]
 LINES = [LINE, (0, 10, 0, 0), (0, 0, 2, 1), (0, 0, 0, 0)]
+
+# Two hulls each, of every answer of touch and astern.
+HULLS = [
+    (0, 4, 0, 0, 2, 2, -2, 2),  # they cross
+    (0, 4, 0, 0, 0, 4, 0, 0),  # the same hull twice
+    (0, 4, 0, 0, 0, 9, 0, 4),  # on one line, with an end in common
+    (0, 4, 0, 0, 0, 9, 0, 5),  # on one line, a astern
+    (0, 9, 0, 5, 0, 4, 0, 0),  # on one line, b astern
+    (5, 0, 1, 0, -5, 2, -1, 3),  # each astern of the other
+    (3, 1, 1, 2, 5, 3, 2, 4),  # side by side
+]
 
 
 def in_places(numbers):
@@ -101,12 +115,30 @@ class RefusedNumbers(unittest.TestCase):
                         changed = with_number(line + c + d, index, number)
                         self.assertEqual(nearer(*changed), nearer_by_parabola(*in_places(changed)), changed)
 
+    def test_touch_and_astern_refuse_each_number_beyond_the_bounds(self):
+        for hulls in HULLS:
+            for index in range(8):
+                for number in OUTSIDE:
+                    changed = with_number(hulls, index, number)
+                    self.assertEqual(touch(*changed), REFUSAL, changed)
+                    self.assertEqual(astern(*changed), REFUSAL, changed)
+
+    def test_touch_and_astern_take_each_number_at_the_bounds(self):
+        for hulls in HULLS:
+            for index in range(8):
+                for number in (BOUND, -BOUND):
+                    changed = with_number(hulls, index, number)
+                    self.assertEqual(touch(*changed), touch_by_meeting(*in_places(changed)), changed)
+                    self.assertEqual(astern(*changed), astern_by_distances(*in_places(changed)), changed)
+
     def test_all_numbers_beyond_the_bounds(self):
         for number in OUTSIDE:
             self.assertEqual(side(*[number] * 6), REFUSAL)
             self.assertEqual(over(*[number] * 8), REFUSAL)
             self.assertEqual(near(*[number] * 6), REFUSAL)
             self.assertEqual(nearer(*[number] * 8), REFUSAL)
+            self.assertEqual(touch(*[number] * 8), REFUSAL)
+            self.assertEqual(astern(*[number] * 8), REFUSAL)
 
 
 class RefusedLines(unittest.TestCase):
@@ -145,6 +177,53 @@ class RefusedLines(unittest.TestCase):
         self.assertEqual(side(1, 2, 3, 4, 3, 4), [0])
         self.assertEqual(over(1, 2, 3, 4, 1, 2, 3, 4), [0])
         self.assertEqual(over(1, 2, 3, 4, 3, 4, 1, 2), [0])
+
+
+class RefusedHulls(unittest.TestCase):
+    PLACES = ((0, 0), (0, 2), (3, -4), (BOUND, BOUND), (-BOUND, BOUND))
+    HULLS = ((0, 4, 0, 0), (2, 2, -2, 2), (5, 1, 3, 0), (-BOUND, BOUND, BOUND, -BOUND))
+
+    def refused(self, numbers):
+        self.assertEqual(touch(*numbers), REFUSAL, numbers)
+        self.assertEqual(astern(*numbers), REFUSAL, numbers)
+
+    def test_a_hull_that_is_one_place(self):
+        for place in self.PLACES:
+            for hull in self.HULLS:
+                self.refused(place + place + hull)
+                self.refused(hull + place + place)
+
+    def test_both_hulls_one_place(self):
+        for place in self.PLACES:
+            for other in self.PLACES:
+                self.refused(place + place + other + other)
+
+    def test_bow_and_stern_alike_in_one_of_x_and_y(self):
+        for hull in self.HULLS:
+            for alike in ((3, 1, 3, 2), (3, 2, 3, 1), (1, 3, 2, 3), (2, 3, 1, 3), (0, 0, 0, 1), (1, 0, 0, 0)):
+                for numbers in (hull + alike, alike + hull, alike + alike):
+                    self.assertEqual(touch(*numbers), touch_by_meeting(*in_places(numbers)), numbers)
+                    self.assertEqual(astern(*numbers), astern_by_distances(*in_places(numbers)), numbers)
+        self.assertEqual(touch(3, 1, 3, 2, 3, 2, 4, 2), [1])
+        self.assertEqual(touch(3, 1, 3, 2, 4, 2, 5, 2), [0])
+        self.assertEqual(astern(3, 2, 3, 1, 5, 0, 4, 0), [3])
+        self.assertEqual(astern(3, 2, 3, 1, 5, 1, 4, 1), [1])
+
+    def test_bow_and_stern_with_x_and_y_changed(self):
+        self.assertEqual(touch(1, 2, 2, 1, 1, 1, 2, 2), [1])
+        self.assertEqual(astern(1, 2, 2, 1, 1, 1, 2, 2), [0])
+        self.assertEqual(touch(5, -5, -5, 5, 0, 9, 9, 0), [0])
+
+    def test_a_place_of_both_hulls_is_no_refusal(self):
+        self.assertEqual(touch(0, 4, 0, 0, 0, 4, 3, 3), [1])
+        self.assertEqual(touch(0, 4, 0, 0, 0, 4, 0, 0), [1])
+        self.assertEqual(astern(0, 4, 0, 0, 0, 4, 3, 3), [0])
+        self.assertEqual(astern(0, 4, 0, 0, 0, 4, 0, 0), [0])
+
+    def test_two_reasons_are_one_refusal(self):
+        self.refused((1, 1, 1, 1, BOUND + 1, 0, 0, 0))
+        self.refused((BOUND + 1, 0, BOUND + 1, 0, 0, 0, 1, 0))
+        self.refused((LOWEST, HIGHEST, LOWEST, HIGHEST, 1, 1, 1, 1))
 
 
 if __name__ == "__main__":

@@ -1,1 +1,1 @@
-"""Water: what can be told exactly of places and lines."""
+"""Water: what can be told exactly of places, lines and hulls."""

@@ -1,6 +1,6 @@
-"""The calls: what is told of places and lines, in whole numbers and fractions, nothing rounded.
+"""The calls: what is told of places, lines and hulls, in whole numbers and fractions, nothing rounded.
 
-Within this file a place and a vector are a tuple (x, y).
+Within this file a place and a vector are a tuple (x, y), a hull is a tuple of two places (bow, stern).
 """
 
 BOUND = 1048576
@@ -132,5 +132,63 @@ def nearer(px, py, qx, qy, cx, cy, dx, dy):
     if lead > 0:
         return [1]
     if lead < 0:
+        return [2]
+    return [0]
+
+
+def is_no_hull(hull):
+    """Whether a place of it is out of bounds, or bow and stern are one place."""
+    return is_beyond(hull) or hull[0] == hull[1]
+
+
+def heading(hull):
+    return less(hull[0], hull[1])
+
+
+def is_aside(hull, other):
+    """Whether the whole hull is on one side of the line through the other, and nothing of it on the line."""
+    return leftness(other[1], other[0], hull[0]) * leftness(other[1], other[0], hull[1]) > 0
+
+
+def spans_meet(a, b, axis):
+    """Whether the straights of these hulls have an x (axis 0) or a y (axis 1) in common."""
+    a_numbers = [place[axis] for place in a]
+    b_numbers = [place[axis] for place in b]
+    return min(a_numbers) <= max(b_numbers) and min(b_numbers) <= max(a_numbers)
+
+
+def touch(abowx, abowy, asternx, asterny, bbowx, bbowy, bsternx, bsterny):
+    """Whether the hulls a and b touch: [1] or [0]; [-8] is a refusal."""
+    a = ((abowx, abowy), (asternx, asterny))
+    b = ((bbowx, bbowy), (bsternx, bsterny))
+    if is_no_hull(a) or is_no_hull(b):
+        return refusal()
+    if is_aside(a, b) or is_aside(b, a):
+        return [0]
+    # Neither hull is aside if both lie on one line, even far from each other: there the spans tell it.
+    if spans_meet(a, b, 0) and spans_meet(a, b, 1):
+        return [1]
+    return [0]
+
+
+def is_clear_astern(hull, other):
+    """Whether the hull is clear astern of the other."""
+    ahead = heading(other)
+    return all([dot(ahead, less(place, other[1])) < 0 for place in hull])
+
+
+def astern(abowx, abowy, asternx, asterny, bbowx, bbowy, bsternx, bsterny):
+    """Who is clear astern: [1] a of b, [2] b of a, [3] each of the other, [0] they overlap; [-8] is a refusal."""
+    a = ((abowx, abowy), (asternx, asterny))
+    b = ((bbowx, bbowy), (bsternx, bsterny))
+    if is_no_hull(a) or is_no_hull(b):
+        return refusal()
+    a_is_astern = is_clear_astern(a, b)
+    b_is_astern = is_clear_astern(b, a)
+    if a_is_astern and b_is_astern:
+        return [3]
+    if a_is_astern:
+        return [1]
+    if b_is_astern:
         return [2]
     return [0]
