@@ -129,6 +129,23 @@ def astern_by_distances(abow, astern, bbow, bstern):
     return [a_is + 2 * b_is]
 
 
+def tack_by_slope(bow, stern, wind, before):
+    """The answer of tack, from the side of the line through the hull to which the wind blows from its stern."""
+    told = side_by_slope(stern, bow, (stern[0] + wind[0], stern[1] + wind[1]))
+    return told if told != [0] else [{1: 1, -1: 2}[before]]
+
+
+def lee_by_distances(abow, astern, bbow, bstern, wind):
+    """The answer of lee: the hull to leeward is nearer to a place far down the wind than to one as far up it."""
+    middle_of_a = place_at(abow, astern, Fraction(1, 2))
+    middle_of_b = place_at(bbow, bstern, Fraction(1, 2))
+    down = [middle_of_a[k] + wind[k] for k in range(2)]
+    up = [middle_of_a[k] - wind[k] for k in range(2)]
+    to_down = distance_square(middle_of_b, down)
+    to_up = distance_square(middle_of_b, up)
+    return [(to_down < to_up) + 2 * (to_up < to_down)]
+
+
 def drawn(count, how_many, reach):
     """This many tuples of places drawn from the bounds -reach and reach, the same ones whenever it is called."""
     state = 20261116 + reach
@@ -144,3 +161,13 @@ def drawn(count, how_many, reach):
 def drawn_hulls(count, reach):
     """Two hulls each, the bow and stern of a, then of b."""
     return [places for places in drawn(count, 4, reach) if places[0] != places[1] and places[2] != places[3]]
+
+
+def drawn_tacks(count, reach):
+    """Bow and stern of a hull and a wind each."""
+    return [row for row in drawn(count, 3, reach) if row[0] != row[1] and row[2] != (0, 0)]
+
+
+def drawn_lees(count, reach):
+    """Bow and stern of a, then of b, and a wind each."""
+    return [row for row in drawn(count, 5, reach) if row[0] != row[1] and row[2] != row[3] and row[4] != (0, 0)]

@@ -1,8 +1,9 @@
-"""What holds of every call: its form, and that nothing is kept or printed."""
+"""What holds of every call: its form, and that nothing is kept, printed, read or imported."""
 
 import contextlib
 import inspect
 import io
+import sys
 import unittest
 
 from waterways import desk
@@ -14,6 +15,8 @@ PARAMETERS = {
     "nearer": ["px", "py", "qx", "qy", "cx", "cy", "dx", "dy"],
     "touch": ["abowx", "abowy", "asternx", "asterny", "bbowx", "bbowy", "bsternx", "bsterny"],
     "astern": ["abowx", "abowy", "asternx", "asterny", "bbowx", "bbowy", "bsternx", "bsterny"],
+    "tack": ["abowx", "abowy", "asternx", "asterny", "u", "v", "before"],
+    "lee": ["abowx", "abowy", "asternx", "asterny", "bbowx", "bbowy", "bsternx", "bsterny", "u", "v"],
 }
 
 CALLS = [
@@ -47,11 +50,46 @@ CALLS = [
     ("astern", (0, -5, 0, -1, 0, 4, 0, 0), [3]),
     ("astern", (0, 4, 0, 4, 0, -1, 0, -5), [-8]),
     ("astern", (0, 4, 0, 0, 0, -1, -2147483648, -5), [-8]),
+    ("tack", (0, 4, 0, 0, -1, 0, -1), [1]),
+    ("tack", (0, 4, 0, 0, 1, 0, 1), [2]),
+    ("tack", (0, 4, 0, 0, 0, -1, 1), [1]),
+    ("tack", (0, 4, 0, 0, 0, -1, -1), [2]),
+    ("tack", (0, 4, 0, 0, 0, 0, 1), [-8]),
+    ("tack", (0, 4, 0, 0, -1, 0, 0), [-8]),
+    ("lee", (0, 4, 0, 0, 0, -1, 0, -5, 0, -1), [1]),
+    ("lee", (0, 4, 0, 0, 0, 9, 0, 5, 0, -1), [2]),
+    ("lee", (0, 4, 0, 0, 3, 2, -3, 2, 0, -1), [0]),
+    ("lee", (0, 4, 0, 4, 3, 2, -3, 2, 0, -1), [-8]),
+    ("lee", (0, 4, 0, 0, 3, 2, -3, 2, 1048577, -1), [-8]),
 ]
 
 
 def call(name, numbers):
     return getattr(desk, name)(*numbers)
+
+
+def what_python_notes(calls):
+    """The names of what Python tells its audit hooks (files opened, modules imported ..) while the calls run."""
+    noted = []
+    listening = [True]
+
+    def hook(event, arguments):
+        if listening:
+            noted.append(event)
+
+    # A hook can't be taken out again, so it is told when to stop listening.
+    sys.addaudithook(hook)
+    try:
+        calls()
+    finally:
+        listening.clear()
+    return noted
+
+
+class Table(unittest.TestCase):
+    def test_every_call_is_asked_and_refuses(self):
+        self.assertEqual({name for name, numbers, answer in CALLS}, set(PARAMETERS))
+        self.assertEqual({name for name, numbers, answer in CALLS if answer == [-8]}, set(PARAMETERS))
 
 
 class Interface(unittest.TestCase):
@@ -84,6 +122,13 @@ class Answers(unittest.TestCase):
                 self.assertEqual(call(name, numbers), answer)
                 self.assertEqual(call(name, numbers), answer)
 
+    def test_between_calls_of_all_the_others(self):
+        for name, numbers, answer in CALLS:
+            for other_name, other_numbers, other_answer in CALLS:
+                self.assertEqual(call(name, numbers), answer)
+                self.assertEqual(call(other_name, other_numbers), other_answer)
+                self.assertEqual(call(name, numbers), answer)
+
     def test_an_answer_that_is_changed_changes_no_other(self):
         for name, numbers, answer in CALLS:
             told = call(name, numbers)
@@ -99,6 +144,24 @@ class Quiet(unittest.TestCase):
             for name, numbers, answer in CALLS:
                 call(name, numbers)
         self.assertEqual((out.getvalue(), err.getvalue()), ("", ""))
+
+    def test_nothing_is_read_or_imported(self):
+        modules = sorted(sys.modules)
+        noted = what_python_notes(lambda: [call(name, numbers) for name, numbers, answer in CALLS])
+        self.assertEqual(noted, [])
+        self.assertEqual(sorted(sys.modules), modules)
+
+    def test_reading_and_importing_would_be_noted(self):
+        def reads():
+            with open(__file__, encoding="utf-8"):
+                pass
+
+        def imports():
+            with contextlib.suppress(ImportError):
+                __import__("a_module_that_is_not_there")
+
+        self.assertIn("open", what_python_notes(reads))
+        self.assertIn("import", what_python_notes(imports))
 
     def test_nothing_is_kept(self):
         before = {name: repr(value) for name, value in vars(desk).items() if name != "__builtins__"}

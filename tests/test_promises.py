@@ -1,11 +1,13 @@
-"""The document's points 1 to 4, as far as they speak of side, over, near, nearer, touch and astern."""
+"""The document's points 1 to 4, over all the calls."""
 
 import unittest
 from fractions import Fraction
 from math import gcd
 
-from tests.exact import BOUND, REFUSAL, distance_square, drawn, drawn_hulls, flat, grid, nearest_part, place_at
-from waterways.desk import astern, near, nearer, over, side, touch
+from tests.exact import (
+    BOUND, REFUSAL, distance_square, drawn, drawn_hulls, drawn_lees, drawn_tacks, flat, grid, nearest_part, place_at,
+)
+from waterways.desk import astern, lee, near, nearer, over, side, tack, touch
 
 ONE_AND_TWO_CHANGED = {1: 2, 0: 0, 2: 1}
 REACHES = (2, 9, 400, BOUND)
@@ -19,6 +21,10 @@ def mirrored(place):
     return (-place[0], place[1])
 
 
+# To the west, to the south, and across the slant.
+MIRRORS = (mirrored, lambda place: (place[0], -place[1]), lambda place: (place[1], place[0]))
+
+
 def moved(place, by):
     return (place[0] + by[0], place[1] + by[1])
 
@@ -28,8 +34,23 @@ def great_places():
     return [(x, y) for x in numbers for y in numbers]
 
 
+def stepped(place, by, count):
+    """The place this many steps away."""
+    return (place[0] + count * by[0], place[1] + count * by[1])
+
+
 def triples():
     """Three places each, the first two not one place."""
+    for reach in REACHES:
+        for p, q, c in drawn(400, 3, reach):
+            if p != q:
+                yield p, q, c
+    # On the line, between its ends and beyond them.
+    for p, by, c in drawn(100, 3, 5000):
+        if by != (0, 0):
+            yield p, stepped(p, by, 7), stepped(p, by, 3)
+            yield p, stepped(p, by, 7), stepped(p, by, 11)
+            yield stepped(p, by, -90), p, stepped(p, by, -91)
     for places in (grid(1) + [(3, 2), (-2, 5)], great_places()):
         for p in places:
             for q in places:
@@ -49,6 +70,18 @@ def ways():
             for c in great_places():
                 for d in great_places():
                     yield p, q, c, d
+    for reach in REACHES:
+        for p, q, c, d in drawn(400, 4, reach):
+            if p != q:
+                yield p, q, c, d
+    # With many whole places on the way, one of them on the line, and the line's ends near and far.
+    for c, by, p, along in drawn(150, 4, 40):
+        if along != (0, 0):
+            crossing = stepped(c, by, 4)
+            yield stepped(crossing, along, -3), stepped(crossing, along, 2), c, stepped(c, by, 12)
+            yield crossing, stepped(crossing, along, 900), c, stepped(c, by, 12)
+            yield stepped(crossing, along, -1), crossing, c, stepped(c, by, 12)
+            yield p, stepped(p, along, 25), c, stepped(c, by, 12)
 
 
 def straights():
@@ -88,6 +121,36 @@ def pairs_of_hulls():
             along = (astern_of_a[0] - abow[0], astern_of_a[1] - abow[1])
             yield abow, astern_of_a, moved(astern_of_a, along), moved(abow, along)
             yield abow, astern_of_a, moved(moved(astern_of_a, along), along), moved(astern_of_a, along)
+
+
+def hulls_and_winds():
+    """Bow and stern of a hull and a wind each, the wind from ahead and from astern among them."""
+    for reach in REACHES:
+        for bow, stern, wind in drawn_tacks(600, reach):
+            yield bow, stern, wind
+    for reach in (3, 500, BOUND // 4):
+        for bow, stern, wind in drawn_tacks(150, reach):
+            yield bow, stern, (bow[0] - stern[0], bow[1] - stern[1])
+            yield bow, stern, (2 * stern[0] - 2 * bow[0], 2 * stern[1] - 2 * bow[1])
+            yield moved(stern, wind), stern, wind
+
+
+def pairs_of_hulls_and_winds():
+    """Bow and stern of a, then of b, and a wind each, among them middles at one place and level across the wind."""
+    for reach in REACHES:
+        for row in drawn_lees(600, reach):
+            yield row
+    for reach in (2, 400, BOUND // 4):
+        for abow, astern_of_a, bbow, bstern, wind in drawn_lees(150, reach):
+            across = quarter(wind)
+            others = [
+                (moved(abow, across), moved(astern_of_a, across)),
+                (stepped(abow, bbow, 2), stepped(astern_of_a, bbow, -2)),
+                (moved(abow, (1, 0)), astern_of_a),
+            ]
+            for bow, stern in others:
+                if bow != stern:
+                    yield abow, astern_of_a, bow, stern, wind
 
 
 def told_distance(p, q, c):
@@ -273,22 +336,25 @@ class PointFour(unittest.TestCase):
                 self.assertEqual(nearer(*flat(*away)), nearer(*flat(*places)), (places, by))
 
     def test_in_a_mirror_left_is_right(self):
-        for places in triples():
-            seen = [mirrored(place) for place in places]
-            self.assertEqual(side(*flat(*seen)), [ONE_AND_TWO_CHANGED[side(*flat(*places))[0]]], places)
+        for mirror in MIRRORS:
+            for places in triples():
+                seen = [mirror(place) for place in places]
+                self.assertEqual(side(*flat(*seen)), [ONE_AND_TWO_CHANGED[side(*flat(*places))[0]]], places)
 
     def test_in_a_mirror_a_way_goes_over_the_line_turned(self):
-        for p, q, c, d in ways():
-            seen = [mirrored(place) for place in (q, p, c, d)]
-            self.assertEqual(over(*flat(*seen)), over(*flat(p, q, c, d)), (p, q, c, d))
+        for mirror in MIRRORS:
+            for p, q, c, d in ways():
+                seen = [mirror(place) for place in (q, p, c, d)]
+                self.assertEqual(over(*flat(*seen)), over(*flat(p, q, c, d)), (p, q, c, d))
 
     def test_in_a_mirror_all_is_as_near(self):
-        for places in straights():
-            seen = [mirrored(place) for place in places]
-            self.assertEqual(near(*flat(*seen)), near(*flat(*places)), places)
-        for places in pairs_of_places():
-            seen = [mirrored(place) for place in places]
-            self.assertEqual(nearer(*flat(*seen)), nearer(*flat(*places)), places)
+        for mirror in MIRRORS:
+            for places in straights():
+                seen = [mirror(place) for place in places]
+                self.assertEqual(near(*flat(*seen)), near(*flat(*places)), places)
+            for places in pairs_of_places():
+                seen = [mirror(place) for place in places]
+                self.assertEqual(nearer(*flat(*seen)), nearer(*flat(*places)), places)
 
 
 class PointFourOfHulls(unittest.TestCase):
@@ -336,9 +402,74 @@ class PointFourOfHulls(unittest.TestCase):
             self.told_the_same(lambda place: moved(place, by), near_hulls)
 
     def test_in_a_mirror(self):
-        self.told_the_same(mirrored, pairs_of_hulls())
-        self.told_the_same(lambda place: (place[0], -place[1]), pairs_of_hulls())
-        self.told_the_same(lambda place: (place[1], place[0]), pairs_of_hulls())
+        for mirror in MIRRORS:
+            self.told_the_same(mirror, pairs_of_hulls())
+
+
+class PointFourOfTack(unittest.TestCase):
+    def test_the_samples_hold_every_answer(self):
+        told = [(tack(*flat(*row), 1)[0], tack(*flat(*row), -1)[0]) for row in hulls_and_winds()]
+        for answers in ((1, 1), (2, 2), (1, 2)):
+            self.assertGreater(told.count(answers), 500)
+        self.assertEqual(len(told), sum(told.count(answers) for answers in ((1, 1), (2, 2), (1, 2))))
+
+    def test_turned_by_a_quarter(self):
+        for row in hulls_and_winds():
+            turned = [quarter(pair) for pair in row]
+            for before in (1, -1):
+                self.assertEqual(tack(*flat(*turned), before), tack(*flat(*row), before), (row, before))
+
+    def test_moved_all_alike(self):
+        near_hulls = [row for row in hulls_and_winds() if max(abs(number) for number in flat(*row[:2])) <= 9]
+        self.assertGreater(len(near_hulls), 500)
+        for by in ((1, 0), (0, -1), (17, -300), (9 - BOUND, BOUND - 9)):
+            for bow, stern, wind in near_hulls:
+                away = flat(moved(bow, by), moved(stern, by), wind)
+                for before in (1, -1):
+                    told = tack(*flat(bow, stern, wind), before)
+                    self.assertEqual(tack(*away, before), told, (bow, stern, wind, by, before))
+
+    def test_in_a_mirror_starboard_is_port(self):
+        for mirror in MIRRORS:
+            for row in hulls_and_winds():
+                seen = [mirror(pair) for pair in row]
+                for before in (1, -1):
+                    told = tack(*flat(*row), before)
+                    self.assertEqual(tack(*flat(*seen), -before), [ONE_AND_TWO_CHANGED[told[0]]], (row, before))
+
+
+class PointFourOfLee(unittest.TestCase):
+    def told_the_same(self, change, rows):
+        for row in rows:
+            changed = [change(pair) for pair in row]
+            self.assertEqual(lee(*flat(*changed)), lee(*flat(*row)), row)
+
+    def test_the_samples_hold_every_answer(self):
+        told = [lee(*flat(*row)) for row in pairs_of_hulls_and_winds()]
+        for answer in ([0], [1], [2]):
+            self.assertGreater(told.count(answer), 500)
+        self.assertEqual(told.count(REFUSAL), 0)
+
+    def test_lee_does_not_hang_on_who_is_first(self):
+        for abow, astern_of_a, bbow, bstern, wind in pairs_of_hulls_and_winds():
+            told = lee(*flat(abow, astern_of_a, bbow, bstern, wind))
+            other = lee(*flat(bbow, bstern, abow, astern_of_a, wind))
+            self.assertEqual(other, [ONE_AND_TWO_CHANGED[told[0]]], (abow, astern_of_a, bbow, bstern, wind))
+
+    def test_turned_by_a_quarter(self):
+        self.told_the_same(quarter, pairs_of_hulls_and_winds())
+
+    def test_moved_all_alike(self):
+        near_hulls = [row for row in pairs_of_hulls_and_winds() if max(abs(number) for number in flat(*row[:4])) <= 9]
+        self.assertGreater(len(near_hulls), 500)
+        for by in ((1, 0), (0, -1), (17, -300), (9 - BOUND, BOUND - 9)):
+            for row in near_hulls:
+                away = [moved(place, by) for place in row[:4]]
+                self.assertEqual(lee(*flat(*away, row[4])), lee(*flat(*row)), (row, by))
+
+    def test_in_a_mirror(self):
+        for mirror in MIRRORS:
+            self.told_the_same(mirror, pairs_of_hulls_and_winds())
 
 
 if __name__ == "__main__":

@@ -1,10 +1,10 @@
 import unittest
 
 from tests.exact import (
-    BOUND, HIGHEST, LOWEST, REFUSAL, astern_by_distances, near_by_parabola, nearer_by_parabola, over_by_meeting,
-    touch_by_meeting,
+    BOUND, HIGHEST, LOWEST, REFUSAL, astern_by_distances, lee_by_distances, near_by_parabola, nearer_by_parabola,
+    over_by_meeting, tack_by_slope, touch_by_meeting,
 )
-from waterways.desk import astern, near, nearer, over, side, touch
+from waterways.desk import astern, lee, near, nearer, over, side, tack, touch
 
 OUTSIDE = (BOUND + 1, -BOUND - 1, LOWEST, HIGHEST, LOWEST + 1, HIGHEST - 1)
 LINE = (0, 0, 10, 0)
@@ -34,6 +34,18 @@ HULLS = [
     (5, 0, 1, 0, -5, 2, -1, 3),  # each astern of the other
     (3, 1, 1, 2, 5, 3, 2, 4),  # side by side
 ]
+
+# A hull and a wind each: from starboard, from port, from ahead, from astern, and aslant.
+TACKS = [
+    (0, 4, 0, 0, -1, 0),
+    (0, 4, 0, 0, 1, 0),
+    (0, 4, 0, 0, 0, -2),
+    (0, 4, 0, 0, 0, 3),
+    (3, 1, 1, 2, 5, -7),
+    (3, 1, 1, 2, -2, 1),
+]
+WINDS = [(1, 0), (0, -1), (2, -3), (-1, -1)]
+OTHER_BEFORES = (0, 2, -2, 3, -3, BOUND, -BOUND, BOUND + 1, -BOUND - 1, LOWEST, HIGHEST)
 
 
 def in_places(numbers):
@@ -131,6 +143,39 @@ class RefusedNumbers(unittest.TestCase):
                     self.assertEqual(touch(*changed), touch_by_meeting(*in_places(changed)), changed)
                     self.assertEqual(astern(*changed), astern_by_distances(*in_places(changed)), changed)
 
+    def test_tack_refuses_each_number_beyond_the_bounds(self):
+        for numbers in TACKS:
+            for index in range(6):
+                for number in OUTSIDE:
+                    for before in (1, -1):
+                        changed = with_number(numbers, index, number)
+                        self.assertEqual(tack(*changed, before), REFUSAL, (changed, before))
+
+    def test_lee_refuses_each_number_beyond_the_bounds(self):
+        for hulls in HULLS:
+            for wind in WINDS:
+                for index in range(10):
+                    for number in OUTSIDE:
+                        changed = with_number(hulls + wind, index, number)
+                        self.assertEqual(lee(*changed), REFUSAL, changed)
+
+    def test_tack_takes_each_number_at_the_bounds(self):
+        for numbers in TACKS:
+            for index in range(6):
+                for number in (BOUND, -BOUND):
+                    for before in (1, -1):
+                        changed = with_number(numbers, index, number)
+                        expected = tack_by_slope(*in_places(changed), before)
+                        self.assertEqual(tack(*changed, before), expected, (changed, before))
+
+    def test_lee_takes_each_number_at_the_bounds(self):
+        for hulls in HULLS:
+            for wind in WINDS:
+                for index in range(10):
+                    for number in (BOUND, -BOUND):
+                        changed = with_number(hulls + wind, index, number)
+                        self.assertEqual(lee(*changed), lee_by_distances(*in_places(changed)), changed)
+
     def test_all_numbers_beyond_the_bounds(self):
         for number in OUTSIDE:
             self.assertEqual(side(*[number] * 6), REFUSAL)
@@ -139,6 +184,8 @@ class RefusedNumbers(unittest.TestCase):
             self.assertEqual(nearer(*[number] * 8), REFUSAL)
             self.assertEqual(touch(*[number] * 8), REFUSAL)
             self.assertEqual(astern(*[number] * 8), REFUSAL)
+            self.assertEqual(tack(*[number] * 7), REFUSAL)
+            self.assertEqual(lee(*[number] * 10), REFUSAL)
 
 
 class RefusedLines(unittest.TestCase):
@@ -186,6 +233,8 @@ class RefusedHulls(unittest.TestCase):
     def refused(self, numbers):
         self.assertEqual(touch(*numbers), REFUSAL, numbers)
         self.assertEqual(astern(*numbers), REFUSAL, numbers)
+        for wind in WINDS:
+            self.assertEqual(lee(*numbers, *wind), REFUSAL, (numbers, wind))
 
     def test_a_hull_that_is_one_place(self):
         for place in self.PLACES:
@@ -198,12 +247,20 @@ class RefusedHulls(unittest.TestCase):
             for other in self.PLACES:
                 self.refused(place + place + other + other)
 
+    def test_tack_refuses_a_hull_that_is_one_place(self):
+        for place in self.PLACES:
+            for wind in WINDS + [(BOUND, -BOUND)]:
+                for before in (1, -1):
+                    self.assertEqual(tack(*place, *place, *wind, before), REFUSAL, (place, wind, before))
+
     def test_bow_and_stern_alike_in_one_of_x_and_y(self):
         for hull in self.HULLS:
             for alike in ((3, 1, 3, 2), (3, 2, 3, 1), (1, 3, 2, 3), (2, 3, 1, 3), (0, 0, 0, 1), (1, 0, 0, 0)):
                 for numbers in (hull + alike, alike + hull, alike + alike):
                     self.assertEqual(touch(*numbers), touch_by_meeting(*in_places(numbers)), numbers)
                     self.assertEqual(astern(*numbers), astern_by_distances(*in_places(numbers)), numbers)
+                    self.assertEqual(lee(*numbers, 1, 3), lee_by_distances(*in_places(numbers), (1, 3)), numbers)
+                self.assertEqual(tack(*alike, 1, 3, 1), tack_by_slope(*in_places(alike), (1, 3), 1), alike)
         self.assertEqual(touch(3, 1, 3, 2, 3, 2, 4, 2), [1])
         self.assertEqual(touch(3, 1, 3, 2, 4, 2, 5, 2), [0])
         self.assertEqual(astern(3, 2, 3, 1, 5, 0, 4, 0), [3])
@@ -224,6 +281,68 @@ class RefusedHulls(unittest.TestCase):
         self.refused((1, 1, 1, 1, BOUND + 1, 0, 0, 0))
         self.refused((BOUND + 1, 0, BOUND + 1, 0, 0, 0, 1, 0))
         self.refused((LOWEST, HIGHEST, LOWEST, HIGHEST, 1, 1, 1, 1))
+
+
+class RefusedWinds(unittest.TestCase):
+    def test_tack_refuses_a_wind_that_is_nothing(self):
+        for numbers in TACKS:
+            for before in (1, -1):
+                self.assertEqual(tack(*numbers[:4], 0, 0, before), REFUSAL, (numbers, before))
+
+    def test_lee_refuses_a_wind_that_is_nothing(self):
+        for hulls in HULLS:
+            self.assertEqual(lee(*hulls, 0, 0), REFUSAL, hulls)
+
+    def test_a_wind_with_one_number_0_is_no_refusal(self):
+        for u, v in ((1, 0), (-1, 0), (0, 1), (0, -1), (BOUND, 0), (-BOUND, 0), (0, BOUND), (0, -BOUND)):
+            for numbers in TACKS:
+                for before in (1, -1):
+                    expected = tack_by_slope(*in_places(numbers[:4]), (u, v), before)
+                    self.assertEqual(tack(*numbers[:4], u, v, before), expected, (numbers, u, v, before))
+            for hulls in HULLS:
+                self.assertEqual(lee(*hulls, u, v), lee_by_distances(*in_places(hulls), (u, v)), (hulls, u, v))
+        self.assertEqual(tack(3, 3, 1, 1, -1, 0, -1), [1])
+        self.assertEqual(tack(3, 3, 1, 1, 0, -1, 1), [2])
+        self.assertEqual(lee(3, 3, 1, 1, 5, 2, 1, 0, 1, 0), [1])
+        self.assertEqual(lee(3, 3, 1, 1, 5, 2, 1, 0, 0, 1), [2])
+
+    def test_numbers_of_the_wind_that_are_alike_or_opposite_are_no_refusal(self):
+        self.assertEqual(tack(3, 4, 1, 1, 2, 2, 1), [2])
+        self.assertEqual(tack(3, 4, 1, 1, 2, -2, 1), [2])
+        self.assertEqual(lee(3, 4, 1, 1, 7, 8, 5, 4, -2, 2), [2])
+        self.assertEqual(lee(3, 4, 1, 1, 7, 8, 5, 4, 2, 2), [1])
+
+
+class RefusedBefore(unittest.TestCase):
+    def test_another_number_than_1_and_minus_1(self):
+        # The wind from a side too, where before would tell nothing.
+        for numbers in TACKS:
+            for before in OTHER_BEFORES:
+                self.assertEqual(tack(*numbers, before), REFUSAL, (numbers, before))
+
+    def test_1_and_minus_1_are_no_refusal(self):
+        for numbers in TACKS:
+            for before in (1, -1):
+                self.assertIn(tack(*numbers, before), ([1], [2]), (numbers, before))
+
+
+class TwoReasonsOfWinds(unittest.TestCase):
+    def test_of_tack(self):
+        self.assertEqual(tack(1, 1, 1, 1, 0, 0, 1), REFUSAL)
+        self.assertEqual(tack(1, 1, 1, 1, 2, 3, 0), REFUSAL)
+        self.assertEqual(tack(0, 4, 0, 0, 0, 0, 2), REFUSAL)
+        self.assertEqual(tack(0, BOUND + 1, 0, 0, 0, 0, -1), REFUSAL)
+        self.assertEqual(tack(0, BOUND + 1, 0, 0, 1, LOWEST, -1), REFUSAL)
+        self.assertEqual(tack(0, 4, 0, 0, HIGHEST, 0, HIGHEST), REFUSAL)
+        self.assertEqual(tack(LOWEST, HIGHEST, LOWEST, HIGHEST, 0, 0, 0), REFUSAL)
+
+    def test_of_lee(self):
+        self.assertEqual(lee(1, 1, 1, 1, 0, 4, 0, 0, 0, 0), REFUSAL)
+        self.assertEqual(lee(0, 4, 0, 0, 1, 1, 1, 1, 0, 0), REFUSAL)
+        self.assertEqual(lee(1, 1, 1, 1, 2, 2, 2, 2, 0, 0), REFUSAL)
+        self.assertEqual(lee(0, 4, 0, 0, 2, -BOUND - 1, 1, 1, 0, 0), REFUSAL)
+        self.assertEqual(lee(0, 4, 0, 0, 2, -BOUND - 1, 1, 1, LOWEST, HIGHEST), REFUSAL)
+        self.assertEqual(lee(1, 1, 1, 1, 0, 4, 0, 0, BOUND + 1, 0), REFUSAL)
 
 
 if __name__ == "__main__":

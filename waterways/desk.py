@@ -1,6 +1,6 @@
-"""The calls: what is told of places, lines and hulls, in whole numbers and fractions, nothing rounded.
+"""The calls: what is told of places, lines, hulls and winds, in whole numbers and fractions, nothing rounded.
 
-Within this file a place and a vector are a tuple (x, y), a hull is a tuple of two places (bow, stern).
+Within this file a place and a vector, as a wind is, are a tuple (x, y), a hull is a tuple of two places (bow, stern).
 """
 
 BOUND = 1048576
@@ -8,6 +8,15 @@ BOUND = 1048576
 
 def refusal():
     return [-8]
+
+
+def by_sign(number):
+    """The answer of a call that tells 1 if the number is above 0, 2 if it is below, else 0."""
+    if number > 0:
+        return [1]
+    if number < 0:
+        return [2]
+    return [0]
 
 
 def is_beyond(places):
@@ -53,12 +62,7 @@ def side(px, py, qx, qy, cx, cy):
     c = (cx, cy)
     if is_beyond([p, q, c]) or p == q:
         return refusal()
-    left = leftness(p, q, c)
-    if left > 0:
-        return [1]
-    if left < 0:
-        return [2]
-    return [0]
+    return by_sign(leftness(p, q, c))
 
 
 def meets_between(p, q, c, d):
@@ -128,12 +132,7 @@ def nearer(px, py, qx, qy, cx, cy, dx, dy):
     of_c = square_distance(p, q, c)
     of_d = square_distance(p, q, d)
     # Both denominators are above 0, so the fractions stand to each other as these products do.
-    lead = of_d[0] * of_c[1] - of_c[0] * of_d[1]
-    if lead > 0:
-        return [1]
-    if lead < 0:
-        return [2]
-    return [0]
+    return by_sign(of_d[0] * of_c[1] - of_c[0] * of_d[1])
 
 
 def is_no_hull(hull):
@@ -192,3 +191,38 @@ def astern(abowx, abowy, asternx, asterny, bbowx, bbowy, bsternx, bsterny):
     if b_is_astern:
         return [2]
     return [0]
+
+
+def is_no_wind(wind):
+    """Whether a number of it is out of bounds, or it is nothing."""
+    return is_beyond([wind]) or wind == (0, 0)
+
+
+def tack(abowx, abowy, asternx, asterny, u, v, before):
+    """On which tack is the hull a: [1] starboard, [2] port; [-8] is a refusal.
+
+    Before, 1 starboard and -1 port, tells it where the wind blows straight from ahead or from astern.
+    """
+    a = ((abowx, abowy), (asternx, asterny))
+    wind = (u, v)
+    if is_no_hull(a) or is_no_wind(wind) or before not in (1, -1):
+        return refusal()
+    to_the_left = cross(heading(a), wind)
+    if to_the_left == 0:
+        return by_sign(before)
+    return by_sign(to_the_left)
+
+
+def middle(hull):
+    """Bow and stern together: without halving them, so that it is whole."""
+    return (hull[0][0] + hull[1][0], hull[0][1] + hull[1][1])
+
+
+def lee(abowx, abowy, asternx, asterny, bbowx, bbowy, bsternx, bsterny, u, v):
+    """Who is to leeward: [1] b of a, [2] a of b, [0] neither; [-8] is a refusal."""
+    a = ((abowx, abowy), (asternx, asterny))
+    b = ((bbowx, bbowy), (bsternx, bsterny))
+    wind = (u, v)
+    if is_no_hull(a) or is_no_hull(b) or is_no_wind(wind):
+        return refusal()
+    return by_sign(dot(wind, less(middle(b), middle(a))))
